@@ -14,6 +14,8 @@ const judgedBelow = 100
 
 const maxOutcomes = 500
 
+const parkSeparator = " "
+
 // A street shows only what its functions tell: a place once taken cannot become free again.
 type street struct {
 	take func(place int) bool        // takes a place, and is false if it was taken already
@@ -83,6 +85,28 @@ func countBelow(list []int, bound int) int {
 		}
 	}
 	return count
+}
+
+func joinNumbers(list []int, separator string) string {
+	words := make([]string, len(list))
+	for i, number := range list {
+		words[i] = strconv.Itoa(number)
+	}
+	return strings.Join(words, separator)
+}
+
+// splitNumbers returns the list, of at least one number, that joinNumbers makes the text. It fails if there is none.
+func splitNumbers(s string, separator string) ([]int, bool) {
+	var list []int
+	for _, word := range strings.Split(s, separator) {
+		number, err := strconv.Atoi(word)
+		// A number can be read in more ways than it is written, such as with a sign.
+		if err != nil || strconv.Itoa(number) != word {
+			return nil, false
+		}
+		list = append(list, number)
+	}
+	return list, true
 }
 
 // AreFavourites reports whether list are favourites for a street with so many places, a number in 1..MaxPlaces.
@@ -329,11 +353,7 @@ func ParkText(list []int) (string, bool) {
 	if !isParkingFunction(list) {
 		return "", false
 	}
-	words := make([]string, len(list))
-	for i, favourite := range list {
-		words[i] = strconv.Itoa(favourite)
-	}
-	return strings.Join(words, " "), true
+	return joinNumbers(list, parkSeparator), true
 }
 
 // ParsePark returns the parking function with a ParkText. It fails if there is none.
@@ -341,16 +361,8 @@ func ParsePark(s string) ([]int, bool) {
 	if s == "" {
 		return nil, true
 	}
-	var list []int
-	for _, word := range strings.Split(s, " ") {
-		favourite, err := strconv.Atoi(word)
-		if err != nil {
-			return nil, false
-		}
-		list = append(list, favourite)
-	}
-	// Numbers can be written in ways that ParkText does not use, such as with a sign.
-	if text, ok := ParkText(list); !ok || text != s {
+	list, ok := splitNumbers(s, parkSeparator)
+	if !ok || !isParkingFunction(list) {
 		return nil, false
 	}
 	return list, true
