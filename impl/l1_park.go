@@ -252,7 +252,8 @@ func MixOf(a []int, b []int, low bool) ([]int, bool) {
 	return mix, true
 }
 
-func isOutcome(order []int) bool {
+// isOrder reports whether a list of at most MaxCars numbers has each of 0..n - 1 once.
+func isOrder(order []int) bool {
 	if !areCarsBelow(order, len(order)) {
 		return false
 	}
@@ -284,7 +285,7 @@ func leastFavourites(order []int) []int {
 
 // CountWithOutcome returns how many parking functions have the given DriveCars, a list that has each of 0..n - 1 once, n in 0..MaxCars.
 func CountWithOutcome(order []int) (int, bool) {
-	if !isOutcome(order) {
+	if !isOrder(order) {
 		return 0, false
 	}
 	count := 1

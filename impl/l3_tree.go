@@ -6,9 +6,24 @@ import (
 )
 
 const (
-	treeSeparator = ","
-	noNodesText   = "-"
+	listSeparator = ","
+	emptyListText = "-"
 )
+
+func listText(list []int) string {
+	if len(list) == 0 {
+		return emptyListText
+	}
+	return joinNumbers(list, listSeparator)
+}
+
+// parseList returns the list with a listText. It fails if there is none.
+func parseList(s string) ([]int, bool) {
+	if s == emptyListText {
+		return nil, true
+	}
+	return splitNumbers(s, listSeparator)
+}
 
 // above finds, from the parent of a node up to the root, what is above it. It has no end where parents lead round.
 func above(parents []int, node int) iter.Seq[int] {
@@ -298,18 +313,12 @@ func TreeText(parents []int) (string, bool) {
 	if !IsTree(parents) {
 		return "", false
 	}
-	if len(parents) == 0 {
-		return noNodesText, true
-	}
-	return joinNumbers(parents, treeSeparator), true
+	return listText(parents), true
 }
 
 // ParseTree returns the tree with a TreeText. It fails if there is none.
 func ParseTree(s string) ([]int, bool) {
-	if s == noNodesText {
-		return nil, true
-	}
-	parents, ok := splitNumbers(s, treeSeparator)
+	parents, ok := parseList(s)
 	if !ok || !IsTree(parents) {
 		return nil, false
 	}
