@@ -87,6 +87,11 @@ func countBelow(list []int, bound int) int {
 	return count
 }
 
+// surplusFrom returns how many more cars have a favourite of at least a place than there are places from it on; it is negative if there are fewer.
+func surplusFrom(list []int, places int, place int) int {
+	return len(list) - countBelow(list, place) - (places - place)
+}
+
 func joinNumbers(list []int, separator string) string {
 	words := make([]string, len(list))
 	for i, number := range list {
@@ -145,7 +150,7 @@ func RefusingPlace(list []int, places int) (int, bool) {
 		return 0, false
 	}
 	for place := places - 1; place >= 0; place-- {
-		if len(list)-countBelow(list, place) > places-place {
+		if surplusFrom(list, places, place) > 0 {
 			return place, true
 		}
 	}
