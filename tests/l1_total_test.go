@@ -11,6 +11,7 @@ import (
 type result struct {
 	lists  [][]int // all slices that a call returns
 	number int
+	second int // of calls that return two numbers
 	answer bool
 	text   string
 	ok     bool
@@ -110,7 +111,7 @@ func cloneLists(lists [][]int) [][]int {
 }
 
 func sameResult(a result, b result) bool {
-	return slices.EqualFunc(a.lists, b.lists, slices.Equal) && a.number == b.number && a.answer == b.answer && a.text == b.text && a.ok == b.ok
+	return slices.EqualFunc(a.lists, b.lists, slices.Equal) && a.number == b.number && a.second == b.second && a.answer == b.answer && a.text == b.text && a.ok == b.ok
 }
 
 // expectDecent holds for each call, whatever its arguments are.
@@ -123,7 +124,7 @@ func expectDecent(t *testing.T, c call, lists ...[]int) {
 	}
 	got := c.run(args...)
 	if !got.ok {
-		if got.number != 0 || got.answer || got.text != "" {
+		if got.number != 0 || got.second != 0 || got.answer || got.text != "" {
 			t.Errorf("%s fails with %v, not with zero values", what, got)
 		}
 		for _, list := range got.lists {
