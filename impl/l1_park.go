@@ -77,6 +77,26 @@ func isParkingFunction(list []int) bool {
 	return ok
 }
 
+func indicesOf(n int) []int {
+	indices := make([]int, n)
+	for i := range indices {
+		indices[i] = i
+	}
+	return indices
+}
+
+// isUnder reports whether, in increasing order, each number of a list is at least 0 and at most the bound with the same index.
+func isUnder(list []int, bounds ...int) bool {
+	sorted := slices.Clone(list)
+	slices.Sort(sorted)
+	for i, x := range sorted {
+		if x < 0 || x > bounds[i] {
+			return false
+		}
+	}
+	return true
+}
+
 func countBelow(list []int, bound int) int {
 	count := 0
 	for _, x := range list {
@@ -212,14 +232,7 @@ func SortedFits(list []int) (bool, bool) {
 	if !areCarsBelow(list, judgedBelow) {
 		return false, false
 	}
-	sorted := slices.Clone(list)
-	slices.Sort(sorted)
-	for i, x := range sorted {
-		if x > i {
-			return false, true
-		}
-	}
-	return true, true
+	return isUnder(list, indicesOf(len(list))...), true
 }
 
 // IsBelow reports whether each number of a is at most that of b with the same index, for parking functions with as many cars; it is false for parking functions with other numbers of cars.
